@@ -1,0 +1,122 @@
+package rules
+
+import (
+	"go/ast"
+	"go/importer"
+	"go/parser"
+	"go/token"
+	"go/types"
+	"path/filepath"
+	"strings"
+	"testing"
+)
+
+// ways is what the document's section 'Ways' asks of each stage's layers. A stage that is built stands here.
+var ways = []struct{ layers, asked string }{
+	{"phys disk", "map three-index clear copy"},
+	{"insn asm", "map label range-string"},
+}
+
+// checked is a package with what its names and expressions are.
+type checked struct {
+	set   *token.FileSet
+	info  *types.Info
+	files []*ast.File
+	made  *types.Package
+}
+
+// loader finds the project's packages beside this one, and the library's in their source.
+type loader struct {
+	set     *token.FileSet
+	library types.Importer
+	packs   map[string]*checked
+}
+
+func newLoader() *loader {
+	set := token.NewFileSet()
+	return &loader{set: set, library: importer.ForCompiler(set, "source", nil), packs: map[string]*checked{}}
+}
+
+func (l *loader) Import(path string) (*types.Package, error) {
+	layer, ok := strings.CutPrefix(path, "parapet/")
+	if !ok {
+		return l.library.Import(path)
+	}
+	p, err := l.load(layer)
+	if err != nil {
+		return nil, err
+	}
+	return p.made, nil
+}
+
+func (l *loader) load(layer string) (*checked, error) {
+	if p := l.packs[layer]; p != nil {
+		return p, nil
+	}
+	p := &checked{set: l.set, info: &types.Info{Types: map[ast.Expr]types.TypeAndValue{}, Uses: map[*ast.Ident]types.Object{}}}
+	paths, err := filepath.Glob(filepath.Join("..", layer, "*.go"))
+	if err != nil {
+		return nil, err
+	}
+	for _, path := range paths {
+		if strings.HasSuffix(path, "_test.go") {
+			continue
+		}
+		f, err := parser.ParseFile(l.set, path, nil, 0)
+		if err != nil {
+			return nil, err
+		}
+		p.files = append(p.files, f)
+	}
+	c := types.Config{Importer: l}
+	p.made, err = c.Check("parapet/"+layer, l.set, p.files, p.info)
+	l.packs[layer] = p
+	return p, err
+}
+
+// way is the word for what a node leans on, if it is one that a stage asks for.
+func (p *checked) way(n ast.Node) string {
+	switch x := n.(type) {
+	case *ast.MapType:
+		return "map"
+	case *ast.LabeledStmt:
+		return "label"
+	case *ast.SliceExpr:
+		if x.Slice3 {
+			return "three-index"
+		}
+	case *ast.RangeStmt:
+		if t, ok := p.info.Types[x.X].Type.Underlying().(*types.Basic); ok && t.Info()&types.IsString != 0 {
+			return "range-string"
+		}
+	case *ast.CallExpr:
+		if f, ok := x.Fun.(*ast.Ident); ok {
+			return f.Name
+		}
+	}
+	return ""
+}
+
+func TestStagesLeanOnTheirWays(t *testing.T) {
+	l := newLoader()
+	for _, stage := range ways {
+		has := map[string]bool{}
+		for _, layer := range strings.Fields(stage.layers) {
+			p, err := l.load(layer)
+			if err != nil {
+				t.Fatal(err)
+			}
+			for _, f := range p.files {
+				ast.Inspect(f, func(n ast.Node) bool {
+					has[p.way(n)] = true
+					return true
+				})
+			}
+		}
+		for _, w := range strings.Fields(stage.asked) {
+			if !has[w] {
+				t.Errorf("%s: nothing of %s", stage.layers, w)
+			}
+		}
+	}
+}
