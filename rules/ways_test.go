@@ -15,6 +15,7 @@ import (
 var ways = []struct{ layers, asked string }{
 	{"phys disk", "map three-index clear copy"},
 	{"insn asm", "map label range-string"},
+	{"ptab frame", "range-function closure array"},
 }
 
 // checked is a package with what its names and expressions are.
@@ -85,13 +86,30 @@ func (p *checked) way(n ast.Node) string {
 		if x.Slice3 {
 			return "three-index"
 		}
-	case *ast.RangeStmt:
-		if t, ok := p.info.Types[x.X].Type.Underlying().(*types.Basic); ok && t.Info()&types.IsString != 0 {
-			return "range-string"
+	case *ast.ArrayType:
+		if x.Len != nil {
+			return "array"
 		}
+	case *ast.FuncLit:
+		return "closure"
+	case *ast.RangeStmt:
+		return p.ranged(x.X)
 	case *ast.CallExpr:
 		if f, ok := x.Fun.(*ast.Ident); ok {
 			return f.Name
+		}
+	}
+	return ""
+}
+
+// ranged is the word for what is ranged over.
+func (p *checked) ranged(e ast.Expr) string {
+	switch t := p.info.Types[e].Type.Underlying().(type) {
+	case *types.Signature:
+		return "range-function"
+	case *types.Basic:
+		if t.Info()&types.IsString != 0 {
+			return "range-string"
 		}
 	}
 	return ""
