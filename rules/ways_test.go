@@ -16,6 +16,7 @@ var ways = []struct{ layers, asked string }{
 	{"phys disk", "map three-index clear copy"},
 	{"insn asm", "map label range-string"},
 	{"ptab frame", "range-function closure array"},
+	{"tlb slab", "map delete array-compared range-map"},
 }
 
 // checked is a package with what its names and expressions are.
@@ -94,6 +95,10 @@ func (p *checked) way(n ast.Node) string {
 		return "closure"
 	case *ast.RangeStmt:
 		return p.ranged(x.X)
+	case *ast.BinaryExpr:
+		if _, ok := p.info.Types[x.X].Type.Underlying().(*types.Array); ok {
+			return "array-compared"
+		}
 	case *ast.CallExpr:
 		if f, ok := x.Fun.(*ast.Ident); ok {
 			return f.Name
@@ -107,6 +112,8 @@ func (p *checked) ranged(e ast.Expr) string {
 	switch t := p.info.Types[e].Type.Underlying().(type) {
 	case *types.Signature:
 		return "range-function"
+	case *types.Map:
+		return "range-map"
 	case *types.Basic:
 		if t.Info()&types.IsString != 0 {
 			return "range-string"
