@@ -17,6 +17,7 @@ var ways = []struct{ layers, asked string }{
 	{"insn asm", "map label range-string"},
 	{"ptab frame", "range-function closure array"},
 	{"tlb slab", "map delete array-compared range-map"},
+	{"resv rcu", "label map delete clear range-map"},
 }
 
 // checked is a package with what its names and expressions are.
