@@ -18,6 +18,7 @@ var ways = []struct{ layers, asked string }{
 	{"ptab frame", "range-function closure array"},
 	{"tlb slab", "map delete array-compared range-map"},
 	{"resv rcu", "label map delete clear range-map"},
+	{"runq waitq", "array map delete range-integer"},
 }
 
 // checked is a package with what its names and expressions are.
@@ -119,6 +120,7 @@ func (p *checked) ranged(e ast.Expr) string {
 		if t.Info()&types.IsString != 0 {
 			return "range-string"
 		}
+		return "range-integer"
 	}
 	return ""
 }
