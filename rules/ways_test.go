@@ -19,6 +19,7 @@ var ways = []struct{ layers, asked string }{
 	{"tlb slab", "map delete array-compared range-map"},
 	{"resv rcu", "label map delete clear range-map"},
 	{"runq waitq", "array map delete range-integer"},
+	{"space copyio", "array range-function closure range-integer"},
 }
 
 // checked is a package with what its names and expressions are.
