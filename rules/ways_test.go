@@ -7,6 +7,7 @@ import (
 	"go/token"
 	"go/types"
 	"path/filepath"
+	"slices"
 	"strings"
 	"testing"
 )
@@ -20,6 +21,7 @@ var ways = []struct{ layers, asked string }{
 	{"resv rcu", "label map delete clear range-map"},
 	{"runq waitq", "array map delete range-integer"},
 	{"space copyio", "array range-function closure range-integer"},
+	{"buf wlog", "map delete function-field method-expression"},
 }
 
 // checked is a package with what its names and expressions are.
@@ -58,7 +60,7 @@ func (l *loader) load(layer string) (*checked, error) {
 	if p := l.packs[layer]; p != nil {
 		return p, nil
 	}
-	p := &checked{set: l.set, info: &types.Info{Types: map[ast.Expr]types.TypeAndValue{}, Uses: map[*ast.Ident]types.Object{}}}
+	p := &checked{set: l.set, info: &types.Info{Types: map[ast.Expr]types.TypeAndValue{}, Uses: map[*ast.Ident]types.Object{}, Selections: map[*ast.SelectorExpr]*types.Selection{}}}
 	paths, err := filepath.Glob(filepath.Join("..", layer, "*.go"))
 	if err != nil {
 		return nil, err
@@ -96,6 +98,14 @@ func (p *checked) way(n ast.Node) string {
 		}
 	case *ast.FuncLit:
 		return "closure"
+	case *ast.StructType:
+		if p.hasFunction(x) {
+			return "function-field"
+		}
+	case *ast.SelectorExpr:
+		if s := p.info.Selections[x]; s != nil && s.Kind() == types.MethodExpr {
+			return "method-expression"
+		}
 	case *ast.RangeStmt:
 		return p.ranged(x.X)
 	case *ast.BinaryExpr:
@@ -108,6 +118,14 @@ func (p *checked) way(n ast.Node) string {
 		}
 	}
 	return ""
+}
+
+// hasFunction tells whether a struct has a field that is a function.
+func (p *checked) hasFunction(x *ast.StructType) bool {
+	return slices.ContainsFunc(x.Fields.List, func(f *ast.Field) bool {
+		_, ok := p.info.Types[f.Type].Type.Underlying().(*types.Signature)
+		return ok
+	})
 }
 
 // ranged is the word for what is ranged over.
