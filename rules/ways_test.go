@@ -22,6 +22,7 @@ var ways = []struct{ layers, asked string }{
 	{"runq waitq", "array map delete range-integer"},
 	{"space copyio", "array range-function closure range-integer"},
 	{"buf wlog", "map delete function-field method-expression"},
+	{"inode dirent", "interface-call struct-compared range-function clear three-index copy"},
 }
 
 // checked is a package with what its names and expressions are.
@@ -103,15 +104,11 @@ func (p *checked) way(n ast.Node) string {
 			return "function-field"
 		}
 	case *ast.SelectorExpr:
-		if s := p.info.Selections[x]; s != nil && s.Kind() == types.MethodExpr {
-			return "method-expression"
-		}
+		return selected(p.info.Selections[x])
 	case *ast.RangeStmt:
 		return p.ranged(x.X)
 	case *ast.BinaryExpr:
-		if _, ok := p.info.Types[x.X].Type.Underlying().(*types.Array); ok {
-			return "array-compared"
-		}
+		return p.compared(x.X)
 	case *ast.CallExpr:
 		if f, ok := x.Fun.(*ast.Ident); ok {
 			return f.Name
@@ -126,6 +123,30 @@ func (p *checked) hasFunction(x *ast.StructType) bool {
 		_, ok := p.info.Types[f.Type].Type.Underlying().(*types.Signature)
 		return ok
 	})
+}
+
+// selected is the word for what stands behind a dot.
+func selected(s *types.Selection) string {
+	switch {
+	case s == nil:
+		return ""
+	case s.Kind() == types.MethodExpr:
+		return "method-expression"
+	case s.Kind() == types.MethodVal && types.IsInterface(s.Recv()):
+		return "interface-call"
+	}
+	return ""
+}
+
+// compared is the word for what is held against something else.
+func (p *checked) compared(e ast.Expr) string {
+	switch p.info.Types[e].Type.Underlying().(type) {
+	case *types.Array:
+		return "array-compared"
+	case *types.Struct:
+		return "struct-compared"
+	}
+	return ""
 }
 
 // ranged is the word for what is ranged over.
