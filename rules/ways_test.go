@@ -23,6 +23,7 @@ var ways = []struct{ layers, asked string }{
 	{"space copyio", "array range-function closure range-integer"},
 	{"buf wlog", "map delete function-field method-expression"},
 	{"inode dirent", "interface-call struct-compared range-function clear three-index copy"},
+	{"namec fsop", "map closure delete"},
 }
 
 // checked is a package with what its names and expressions are.
