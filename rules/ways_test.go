@@ -24,6 +24,7 @@ var ways = []struct{ layers, asked string }{
 	{"buf wlog", "map delete function-field method-expression"},
 	{"inode dirent", "interface-call struct-compared range-function clear three-index copy"},
 	{"namec fsop", "map closure delete"},
+	{"pipe fdtab", "array copy map delete"},
 }
 
 // checked is a package with what its names and expressions are.
