@@ -25,6 +25,7 @@ var ways = []struct{ layers, asked string }{
 	{"inode dirent", "interface-call struct-compared range-function clear three-index copy"},
 	{"namec fsop", "map closure delete"},
 	{"pipe fdtab", "array copy map delete"},
+	{"image proc", "closure map delete three-index"},
 }
 
 // checked is a package with what its names and expressions are.
