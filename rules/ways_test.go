@@ -7,7 +7,6 @@ import (
 	"go/token"
 	"go/types"
 	"path/filepath"
-	"slices"
 	"strings"
 	"testing"
 )
@@ -26,6 +25,7 @@ var ways = []struct{ layers, asked string }{
 	{"namec fsop", "map closure delete"},
 	{"pipe fdtab", "array copy map delete"},
 	{"image proc", "closure map delete three-index"},
+	{"pm call", "embedding map function-field method-expression iota variadic"},
 }
 
 // checked is a package with what its names and expressions are.
@@ -102,10 +102,16 @@ func (p *checked) way(n ast.Node) string {
 		}
 	case *ast.FuncLit:
 		return "closure"
-	case *ast.StructType:
-		if p.hasFunction(x) {
-			return "function-field"
+	case *ast.Ident:
+		if x.Name == "iota" {
+			return "iota"
 		}
+	case *ast.Ellipsis:
+		if x.Elt != nil {
+			return "variadic"
+		}
+	case *ast.StructType:
+		return p.fields(x)
 	case *ast.SelectorExpr:
 		return selected(p.info.Selections[x])
 	case *ast.RangeStmt:
@@ -120,12 +126,17 @@ func (p *checked) way(n ast.Node) string {
 	return ""
 }
 
-// hasFunction tells whether a struct has a field that is a function.
-func (p *checked) hasFunction(x *ast.StructType) bool {
-	return slices.ContainsFunc(x.Fields.List, func(f *ast.Field) bool {
-		_, ok := p.info.Types[f.Type].Type.Underlying().(*types.Signature)
-		return ok
-	})
+// fields is the word for what stands in a struct.
+func (p *checked) fields(x *ast.StructType) string {
+	for _, f := range x.Fields.List {
+		if len(f.Names) == 0 {
+			return "embedding"
+		}
+		if _, ok := p.info.Types[f.Type].Type.Underlying().(*types.Signature); ok {
+			return "function-field"
+		}
+	}
+	return ""
 }
 
 // selected is the word for what stands behind a dot.
