@@ -26,6 +26,7 @@ var ways = []struct{ layers, asked string }{
 	{"pipe fdtab", "array copy map delete"},
 	{"image proc", "closure map delete three-index"},
 	{"pm call", "embedding map function-field method-expression iota variadic"},
+	{"kern lin", "function-field method-expression map variadic iota interface interface-call"},
 }
 
 // checked is a package with what its names and expressions are.
@@ -109,6 +110,10 @@ func (p *checked) way(n ast.Node) string {
 	case *ast.Ellipsis:
 		if x.Elt != nil {
 			return "variadic"
+		}
+	case *ast.InterfaceType:
+		if x.Methods.NumFields() > 0 {
+			return "interface"
 		}
 	case *ast.StructType:
 		return p.fields(x)
